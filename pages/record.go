@@ -1,9 +1,6 @@
 package pages
 
 import (
-	"bytes"
-	"slices"
-
 	"rotulet/api"
 	"rotulet/bits"
 	"rotulet/cell"
@@ -83,9 +80,4 @@ func widths(k kind) []int {
 		return []int{kindBits, numberBits, numberBits}
 	}
 	return nil
-}
-
-// copyOf is a cell in memory of its own.
-func copyOf(c api.Cell) api.Cell {
-	return api.Cell{Kind: c.Kind, Data: bytes.Clone(c.Data), Backs: slices.Clone(c.Backs)}
 }
