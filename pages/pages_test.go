@@ -266,6 +266,20 @@ func TestNil(t *testing.T) {
 	tells(t, "nil", p, told{})
 }
 
+// P1: pages that nobody opened have no tape: what has to be kept is refused, and nothing panics.
+func TestNotOpened(t *testing.T) {
+	p := new(pages.Pages)
+	for i, e := range []api.Errno{p.Write(5, junk()), p.Trim(5), p.TrimOne(5), p.Seal(5), p.Open(5)} {
+		if e != api.ErrArg {
+			t.Errorf("%d: %d", i, e)
+		}
+	}
+	if c, e := p.Read(5); e != api.ErrUnwritten || !cell.Same(c, api.Cell{}) {
+		t.Errorf("Read: %v, %d", c, e)
+	}
+	tells(t, "not opened", p, told{})
+}
+
 // Rule 4: a cell that was written or read, and the lists that were handed out, change nothing when they are changed later, nor does a later call change them.
 func TestApart(t *testing.T) {
 	r := fresh(t, 41)

@@ -16,8 +16,8 @@ type state struct {
 }
 
 // newState is what no records describe.
-func newState() *state {
-	return &state{trimmed: runs.New(), cells: map[uint64]api.Cell{}}
+func newState() state {
+	return state{trimmed: runs.New(), cells: map[uint64]api.Cell{}}
 }
 
 func (s *state) isTrimmed(a uint64) bool { return a < s.mark || s.trimmed.Has(a) }
